@@ -5,24 +5,25 @@ import (
 	"strings"
 
 	"dateline/api"
+	"dateline/fault"
 )
 
 // Split a text into the lines that have fields; with an error comes the number of its line (0: the whole text).
 func Split(s string) ([]api.Line, int, api.Errno) {
 	var lines []api.Line
-	number, errno := attempt(func() { lines = splitText(s) })
+	number, errno := fault.Attempt(func() { lines = splitText(s) })
 	return lines, number, errno
 }
 
 // Join lines to a text that Split splits to the same lines.
 func Join(l []api.Line) (string, api.Errno) {
 	var text string
-	_, errno := attempt(func() { text = joinText(l) })
+	_, errno := fault.Attempt(func() { text = joinText(l) })
 	return text, errno
 }
 
 func splitText(s string) []api.Line {
-	require(len(s) <= api.MaxText, 0, api.ErrMany)
+	fault.Require(len(s) <= api.MaxText, 0, api.ErrMany)
 	var lines []api.Line
 	for i, row := range strings.Split(s, "\n") {
 		l := splitRow(i+1, row)
@@ -30,7 +31,7 @@ func splitText(s string) []api.Line {
 			lines = append(lines, l)
 		}
 	}
-	require(len(lines) <= api.MaxLines, 0, api.ErrMany)
+	fault.Require(len(lines) <= api.MaxLines, 0, api.ErrMany)
 	return lines
 }
 
@@ -39,24 +40,24 @@ func splitRow(number int, row string) api.Line {
 	r := &reader{number: number, row: row}
 	for r.skipGaps(); !r.atEnd(); r.skipGaps() {
 		l.Fields = append(l.Fields, r.field())
-		require(len(l.Fields) <= api.MaxFields, number, api.ErrMany)
+		fault.Require(len(l.Fields) <= api.MaxFields, number, api.ErrMany)
 	}
 	return l
 }
 
 func joinText(l []api.Line) string {
-	require(len(l) <= api.MaxLines, 0, api.ErrMany)
+	fault.Require(len(l) <= api.MaxLines, 0, api.ErrMany)
 	var text strings.Builder
 	for i, each := range l {
 		text.WriteString(joinRow(i+1, each))
 	}
-	require(text.Len() <= api.MaxText, 0, api.ErrMany)
+	fault.Require(text.Len() <= api.MaxText, 0, api.ErrMany)
 	return text.String()
 }
 
 func joinRow(number int, l api.Line) string {
-	require(len(l.Fields) > 0, number, api.ErrForm)
-	require(len(l.Fields) <= api.MaxFields, number, api.ErrMany)
+	fault.Require(len(l.Fields) > 0, number, api.ErrForm)
+	fault.Require(len(l.Fields) <= api.MaxFields, number, api.ErrMany)
 	var row strings.Builder
 	if l.Inner {
 		row.WriteByte(' ')
@@ -73,9 +74,9 @@ func joinRow(number int, l api.Line) string {
 
 func joinField(number int, f string) string {
 	for i := range len(f) {
-		require(isText(f[i]) && f[i] != '"', number, api.ErrForm)
+		fault.Require(isText(f[i]) && f[i] != '"', number, api.ErrForm)
 	}
-	require(len(f) <= api.MaxField, number, api.ErrMany)
+	fault.Require(len(f) <= api.MaxField, number, api.ErrMany)
 	if f == "" || strings.ContainsAny(f, " \t#") {
 		return `"` + f + `"`
 	}

@@ -1,6 +1,9 @@
 package line
 
-import "dateline/api"
+import (
+	"dateline/api"
+	"dateline/fault"
+)
 
 // reader of one line, and where in it the next byte is.
 type reader struct {
@@ -29,15 +32,15 @@ func (r *reader) field() string {
 		f = r.take(func(c byte) bool { return !isGap(c) && c != '#' && c != '"' })
 	}
 	// Behind a field without '"' around it, what must not follow is just a '"' within it.
-	require(r.atEnd() || isGap(r.row[r.at]), r.number, api.ErrForm)
-	require(len(f) <= api.MaxField, r.number, api.ErrMany)
+	fault.Require(r.atEnd() || isGap(r.row[r.at]), r.number, api.ErrForm)
+	fault.Require(len(f) <= api.MaxField, r.number, api.ErrMany)
 	return f
 }
 
 func (r *reader) quoted() string {
 	r.at++
 	f := r.take(func(c byte) bool { return c != '"' })
-	require(r.at < len(r.row), r.number, api.ErrForm)
+	fault.Require(r.at < len(r.row), r.number, api.ErrForm)
 	r.at++
 	return f
 }
@@ -46,7 +49,7 @@ func (r *reader) quoted() string {
 func (r *reader) take(goesOn func(c byte) bool) string {
 	var taken []byte
 	for r.at < len(r.row) && goesOn(r.row[r.at]) {
-		require(isText(r.row[r.at]), r.number, api.ErrForm)
+		fault.Require(isText(r.row[r.at]), r.number, api.ErrForm)
 		taken = append(taken, r.row[r.at])
 		r.at++
 	}
