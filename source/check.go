@@ -5,6 +5,7 @@ import (
 
 	"dateline/api"
 	"dateline/civil"
+	"dateline/signs"
 )
 
 // commonYear has no day that another year of a rule has not.
@@ -35,7 +36,7 @@ func firstWrong[T any](things []T, check func(thing T) api.Errno) api.Errno {
 func checkRule(r api.Rule) api.Errno {
 	_, day := civil.On(commonYear, r.Month, r.Form)
 	return cmp.Or(
-		unless(isName(r.Name) && isLetters(r.Letter), api.ErrForm),
+		unless(signs.IsName(r.Name) && signs.IsLetters(r.Letter), api.ErrForm),
 		unless(isWithin(r.From, api.MinRule, r.To) && r.To <= api.MaxRule, api.ErrRange),
 		unless(isWithin(r.Month, 1, 12), api.ErrRange),
 		day,
@@ -46,7 +47,7 @@ func checkRule(r api.Rule) api.Errno {
 }
 
 func checkZone(z api.Zone) api.Errno {
-	if !isName(z.Name) || len(z.Eras) == 0 {
+	if !signs.IsName(z.Name) || len(z.Eras) == 0 {
 		return api.ErrForm
 	}
 	last := len(z.Eras) - 1
@@ -58,7 +59,7 @@ func checkZone(z api.Zone) api.Errno {
 
 func checkEra(e api.Era, isLast bool) api.Errno {
 	return cmp.Or(
-		unless((e.Rules == "" || isName(e.Rules)) && isFormat(e.Format), api.ErrForm),
+		unless((e.Rules == "" || signs.IsName(e.Rules)) && signs.IsFormat(e.Format), api.ErrForm),
 		unless(isWithin(e.Shift, -api.MaxShift, api.MaxShift), api.ErrRange),
 		unless(isWithin(e.Save, 0, api.MaxSave), api.ErrRange),
 		unless(e.Rules == "" || e.Save == 0, api.ErrForm),
@@ -80,7 +81,7 @@ func checkEnd(e api.Era) api.Errno {
 }
 
 func checkLink(l api.Link) api.Errno {
-	return unless(isName(l.To) && isName(l.Name), api.ErrForm)
+	return unless(signs.IsName(l.To) && signs.IsName(l.Name), api.ErrForm)
 }
 
 func isWithin(n, least, most int) bool { return n >= least && n <= most }

@@ -7,6 +7,7 @@ import (
 	"dateline/api"
 	"dateline/fault"
 	"dateline/names"
+	"dateline/signs"
 )
 
 // Seconds of parts of days.
@@ -26,7 +27,7 @@ func (f *field) require(holds bool) { fault.Require(holds, f.number, api.ErrForm
 
 // take the bytes for which the field goes on.
 func (f *field) take(goesOn func(c byte) bool) string {
-	n := span(f.rest, goesOn)
+	n := signs.Span(f.rest, goesOn)
 	taken := f.rest[:n]
 	f.rest = f.rest[n:]
 	return taken
@@ -49,7 +50,7 @@ func (f *field) all(isForm func(s string) bool) string {
 
 // digits, from least to most of them: their number.
 func (f *field) digits(least, most int) int {
-	return f.value(f.take(isDigit), least, most)
+	return f.value(f.take(signs.IsDigit), least, most)
 }
 
 // value of digits that were taken.
@@ -60,15 +61,15 @@ func (f *field) value(digits string, least, most int) int {
 	return n
 }
 
-func (f *field) name() string { return f.all(isName) }
+func (f *field) name() string { return f.all(signs.IsName) }
 
-func (f *field) format() string { return f.all(isFormat) }
+func (f *field) format() string { return f.all(signs.IsFormat) }
 
 func (f *field) letter() string {
 	if f.skip("-") {
 		return ""
 	}
-	return f.all(func(s string) bool { return s != "" && isLetters(s) })
+	return f.all(func(s string) bool { return s != "" && signs.IsLetters(s) })
 }
 
 func (f *field) year() int { return f.digits(4, 4) }
@@ -85,13 +86,13 @@ func (f *field) lastYear(from int) int {
 }
 
 func (f *field) month() int {
-	n, ok := names.MonthOf(f.take(isLetter))
+	n, ok := names.MonthOf(f.take(signs.IsLetter))
 	f.require(ok)
 	return n
 }
 
 func (f *field) weekday() int {
-	n, ok := names.WeekdayOf(f.take(isLetter))
+	n, ok := names.WeekdayOf(f.take(signs.IsLetter))
 	f.require(ok)
 	return n
 }
@@ -99,7 +100,7 @@ func (f *field) weekday() int {
 func (f *field) day() int { return f.digits(1, 2) }
 
 func (f *field) form() api.Form {
-	if span(f.rest, isDigit) > 0 {
+	if signs.Span(f.rest, signs.IsDigit) > 0 {
 		return api.Form{Kind: api.FormDay, N: f.day()}
 	}
 	if f.skip("last") {
@@ -115,7 +116,7 @@ func (f *field) form() api.Form {
 
 // time without a kind of clock: its seconds.
 func (f *field) time() int {
-	hours := f.take(isDigit)
+	hours := f.take(signs.IsDigit)
 	if hours == "0" && !f.isNext(":") {
 		return 0
 	}
@@ -147,7 +148,7 @@ func (f *field) rules() (string, int) {
 	if f.skip("-") {
 		return "", 0
 	}
-	if span(f.rest, isDigit) == 0 {
+	if signs.Span(f.rest, signs.IsDigit) == 0 {
 		return f.name(), 0
 	}
 	f.require(f.rest != "0")
@@ -156,7 +157,7 @@ func (f *field) rules() (string, int) {
 
 // clock: the kind of it, as what is behind a time tells.
 func (f *field) clock(kinds map[string]int) int {
-	kind, ok := kinds[f.take(isLetter)]
+	kind, ok := kinds[f.take(signs.IsLetter)]
 	f.require(ok)
 	return kind
 }

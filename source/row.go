@@ -3,6 +3,7 @@ package source
 import (
 	"dateline/api"
 	"dateline/fault"
+	"dateline/signs"
 )
 
 // row: a line, and which of its fields are not read yet.
@@ -27,7 +28,7 @@ func (r *row) end() { r.require(len(r.fields) == 0) }
 
 func (r *row) word() string {
 	var word string
-	r.read(func(f *field) { word = f.take(isLetter) })
+	r.read(func(f *field) { word = f.take(signs.IsLetter) })
 	return word
 }
 

@@ -3,7 +3,6 @@ package zone
 import (
 	"iter"
 	"slices"
-	"strings"
 
 	"dateline/api"
 	"dateline/civil"
@@ -54,29 +53,4 @@ func savedAt(rules []api.Rule, e api.Era, at int) api.Time {
 	// If none is as early, it is the zero value: nothing is saved, and there is no letter.
 	last, _ := seek.Last(slices.Values(times), func(t api.Time) bool { return t.At <= at })
 	return last
-}
-
-func local(e api.Era, saved api.Time) api.Local {
-	return api.Local{Shift: e.Shift + saved.Save, Save: saved.Save, Name: nameOf(e.Format, saved)}
-}
-
-func nameOf(format string, saved api.Time) string {
-	if head, tail, ok := strings.Cut(format, "%s"); ok {
-		return head + saved.Letter + tail
-	}
-	standard, summer, ok := strings.Cut(format, "/")
-	if ok && saved.Save > 0 {
-		return summer
-	}
-	return standard
-}
-
-// isInYears: is a time in a year from MinYear to MaxYear?
-func isInYears(at int) bool {
-	days := at / api.DayTime
-	if at%api.DayTime < 0 {
-		days--
-	}
-	_, errno := civil.Of(days)
-	return errno == api.OK
 }
