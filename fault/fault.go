@@ -37,3 +37,21 @@ func Attempt(work func()) (number int, errno api.Errno) {
 	work()
 	return 0, api.OK
 }
+
+// Unless something holds, an error.
+func Unless(holds bool, errno api.Errno) api.Errno {
+	if holds {
+		return api.OK
+	}
+	return errno
+}
+
+// First of some things with which something is wrong: what it is. Those behind it are not tried.
+func First[T any](things []T, try func(thing T) api.Errno) api.Errno {
+	for _, each := range things {
+		if errno := try(each); errno != api.OK {
+			return errno
+		}
+	}
+	return api.OK
+}
